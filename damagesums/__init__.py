@@ -1,0 +1,1 @@
+"""Sums that find what's damaged: the calls are in damagesums.check."""
