@@ -1,8 +1,11 @@
 """The calls: each answers a list of whole numbers, [-1] where it refuses."""
 
-from damagesums.states import empty_state, is_kind, is_state, state_behind, sum_of_state
+from damagesums.states import (
+    can_have_length, empty_state, is_kind, is_state, state_behind, state_of_both, sum_of_state, zeros_behind,
+)
 
 LONGEST_TEXT = 65536
+HIGHEST_N = 1099511627776
 
 
 def begin(k):
@@ -24,3 +27,26 @@ def sum_of(k, s):
     if not is_kind(k) or not is_state(k, s):
         return [-1]
     return [0, sum_of_state(k, s)]
+
+
+def of(k, text):
+    """0, then the sum of the text."""
+    if not is_kind(k) or len(text) > LONGEST_TEXT:
+        return [-1]
+    return [0, sum_of_state(k, state_behind(k, empty_state(k), text))]
+
+
+def joined(k, a, b, n):
+    """0, then the state of a's text with b's text, of n bytes, behind it."""
+    if not is_kind(k) or not is_state(k, a) or not is_state(k, b) or n > HIGHEST_N:
+        return [-1]
+    if not can_have_length(k, b, n):
+        return [-1]
+    return [0, state_of_both(k, a, b, n)]
+
+
+def zeros(k, s, n):
+    """0, then the state of s's text with n bytes of 0 behind it."""
+    if not is_kind(k) or not is_state(k, s) or n > HIGHEST_N:
+        return [-1]
+    return [0, zeros_behind(k, s, n)]

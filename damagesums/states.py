@@ -4,9 +4,10 @@ ONES = 2
 ADLER = 3
 HIGHEST_KIND = 3
 
-# By kind, for the kinds by bits alone: F and 2^w - 1.
+# By kind, for the kinds by bits alone: F, 2^w - 1 and 2^(w - 1).
 FEEDBACK = (0x82F63B78, 0xC96C5795D7870F42)
 ALL_BITS = (0xFFFFFFFF, 0xFFFFFFFFFFFFFFFF)
+TOP_BIT = (0x80000000, 0x8000000000000000)
 
 HALF = 65536
 ONES_MODULUS = 65535
@@ -47,6 +48,29 @@ def sum_of_state(k, s):
     return s
 
 
+def can_have_length(k, s, n):
+    """Whether s leaves open that its text has n bytes, by odd or even."""
+    return k != ONES or s // HALF == n % 2
+
+
+def state_of_both(k, a, b, n):
+    """The state of a's text with b's text, of n bytes, behind it."""
+    if k == ONES:
+        return ones_of_both(a, b, n)
+    if k == ADLER:
+        return adler_of_both(a, b, n)
+    return zero_bytes_on(k, a, n) ^ b
+
+
+def zeros_behind(k, s, n):
+    """The state of s's text with n bytes of 0 behind it."""
+    if k == ONES:
+        return s % HALF + HALF * ((s // HALF + n) % 2)
+    if k == ADLER:
+        return adler_zeros_behind(s, n)
+    return zero_bytes_on(k, s ^ ALL_BITS[k], n) ^ ALL_BITS[k]
+
+
 def bits_behind(k, s, text):
     # A state has all bits turned once more than the x that bytes go by.
     x = s ^ ALL_BITS[k]
@@ -65,6 +89,30 @@ def one_bit_on(x, feedback):
     if x % 2 == 1:
         return (x // 2) ^ feedback
     return x // 2
+
+
+def zero_bytes_on(k, x, n):
+    """What n bytes of 0, going by, make of x."""
+    # A byte of 0 goes by as a multiplication: by squares n may be far too many to go by one by one.
+    power = eight_bits_on(TOP_BIT[k], FEEDBACK[k])
+    while n > 0:
+        if n % 2 == 1:
+            x = product(k, x, power)
+        power = product(k, power, power)
+        n = n // 2
+    return x
+
+
+def product(k, x, y):
+    # The top bit stands for 1 and each lower bit for one bit on, so x is a sum of such powers.
+    total = 0
+    bit = TOP_BIT[k]
+    while bit > 0:
+        if (x & bit) != 0:
+            total = total ^ y
+        y = one_bit_on(y, FEEDBACK[k])
+        bit = bit // 2
+    return total
 
 
 def ones_behind(s, text):
@@ -87,10 +135,32 @@ def ones_number(total):
     return (total - 1) % ONES_MODULUS + 1
 
 
+def ones_of_both(a, b, n):
+    weight = 1
+    # Behind an odd text all bytes of b's text change from higher to lower ones and back.
+    if a // HALF == 1:
+        weight = 256
+    return ones_number(a % HALF + weight * (b % HALF)) + HALF * ((a // HALF + n) % 2)
+
+
 def adler_behind(s, text):
     a = s % HALF
     b = s // HALF
     for c in text:
         a = (a + c) % ADLER_MODULUS
         b = (b + a) % ADLER_MODULUS
+    return HALF * b + a
+
+
+def adler_of_both(a, b, n):
+    # The 1 that b's text began with is taken off: 65520 is one less than the modulus.
+    ahead = a % HALF + ADLER_MODULUS - 1
+    lower = (ahead + b % HALF) % ADLER_MODULUS
+    upper = (a // HALF + b // HALF + n * ahead) % ADLER_MODULUS
+    return HALF * upper + lower
+
+
+def adler_zeros_behind(s, n):
+    a = s % HALF
+    b = (s // HALF + n * a) % ADLER_MODULUS
     return HALF * b + a

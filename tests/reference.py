@@ -1,5 +1,7 @@
 """States reckoned by other ways than the package's: long division, one big number, zlib."""
 
+import contextlib
+import signal
 import zlib
 
 KINDS = (0, 1, 2, 3)
@@ -25,11 +27,16 @@ NO_STATES = (
         2 ** 32, 2 ** 32 + 1, 2 ** 48, 2 ** 64 - 1,
     ),
 )
+FARTHEST = 2 ** 40
+TOO_FAR = (2 ** 40 + 1, 2 ** 40 + 2, 2 ** 41, 2 ** 63, 2 ** 64 - 2, 2 ** 64 - 1)
+LENGTHS = (0, 1, 2, 3, 4, 5, 7, 8, 63, 64, 255, 256, 1000, 1001, 65520, 65521, 65522, 65535, 65536)
+FAR_LENGTHS = (2 ** 20, 2 ** 31 - 1, 2 ** 32, 3 * 2 ** 32 + 1, 65521 * 65521, 2 ** 40 - 2, 2 ** 40 - 1, FARTHEST)
 TEXTS = (
     [], [0], [1], [255], [0, 0], [0, 1], [1, 0], [255, 255], [255, 254], [128, 127], [0, 0, 0], [255, 255, 0],
     [0, 255, 255], [255, 255, 255], [255] * 16, [255] * 17, list(b"123456789"), list(b"Wikipedia"),
     list(range(256)), list(range(255)), [(7 * i + i // 256) % 256 for i in range(1001)],
 )
+LONG = [(31 * i + i // 256) % 256 for i in range(65536)]
 
 
 def turned(x, width):
@@ -72,3 +79,74 @@ def state(k, s, text):
     if k == 3:
         return zlib.adler32(bytes(text), s)
     return bits_state(k, s, text)
+
+
+def carryless(x, y):
+    total = 0
+    while y:
+        if y & 1:
+            total ^= x
+        x <<= 1
+        y >>= 1
+    return total
+
+
+def zero_bytes_by(k, x, n):
+    """What n bytes of 0 make of x: times the power 8 n, by the digits of n from the highest."""
+    power = 1
+    for digit in format(8 * n, "b"):
+        power = divided(carryless(power, power), k)
+        if digit == "1":
+            power = divided(power << 1, k)
+    return turned(divided(carryless(turned(x, WIDTH[k]), power), k), WIDTH[k])
+
+
+def both(k, a, b, n):
+    """What the document's own words make of a and b, whether or not a text of n bytes has b."""
+    if k < 2:
+        return zero_bytes_by(k, a, n) ^ b
+    if k == 2:
+        total = a % 65536 + b % 65536 * (256 if a >= 65536 else 1)
+        return ones_state(0, total.to_bytes(4, "big")) + 65536 * ((a // 65536 + n) % 2)
+    lower = (a % 65536 + b % 65536 + 65520) % 65521
+    upper = (a // 65536 + b // 65536 + n * (a % 65536 + 65520)) % 65521
+    return 65536 * upper + lower
+
+
+def far_zeros(k, s, n):
+    if k < 2:
+        top = 2 ** WIDTH[k] - 1
+        return zero_bytes_by(k, s ^ top, n) ^ top
+    if k == 2:
+        return ones_state(s, [0] * (n % 2))
+    # Behind 65521 bytes of 0 the state of kind 3 is as it was.
+    return state(3, s, [0] * (n % 65521))
+
+
+def fits(k, s, n):
+    return k != 2 or (s >= 65536) == (n % 2 == 1)
+
+
+class Sealed(list):
+    """A list that fails as soon as it is to be changed, be it for a while alone."""
+
+    def change(self, *values, **named):
+        raise AssertionError("what was handed in is changed")
+
+    append = clear = extend = insert = pop = remove = reverse = sort = change
+    __setitem__ = __delitem__ = __iadd__ = __imul__ = change
+
+
+@contextlib.contextmanager
+def in_time(seconds=20):
+    """An answer that would take a step for each byte of a far place must fail, not hang."""
+    def too_late(number, frame):
+        raise AssertionError("no answer within {} seconds".format(seconds))
+
+    before = signal.signal(signal.SIGALRM, too_late)
+    signal.alarm(seconds)
+    try:
+        yield
+    finally:
+        signal.alarm(0)
+        signal.signal(signal.SIGALRM, before)

@@ -1,9 +1,7 @@
 import unittest
 
 from damagesums.check import add, begin
-from tests.reference import EMPTY, KINDS, NO_KINDS, NO_STATES, STATES, TEXTS, state
-
-LONG = [(31 * i + i // 256) % 256 for i in range(65536)]
+from tests.reference import EMPTY, KINDS, LONG, NO_KINDS, NO_STATES, STATES, TEXTS, Sealed, state
 
 
 def by_length(texts, rest):
@@ -148,7 +146,7 @@ class AddKeepsNothingTest(unittest.TestCase):
     def test_text_is_as_it_was(self):
         for k in KINDS + (4,):
             for text in TEXTS + (LONG, [7] * 65537):
-                handed = list(text)
+                handed = Sealed(text)
                 add(k, 1, handed)
                 self.assertEqual(handed, text)
 

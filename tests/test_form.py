@@ -14,6 +14,9 @@ INTERFACE = {
     "begin": ["k"],
     "add": ["k", "s", "text"],
     "sum_of": ["k", "s"],
+    "of": ["k", "text"],
+    "joined": ["k", "a", "b", "n"],
+    "zeros": ["k", "s", "n"],
 }
 OWN_NAMES = set(
     "len range enumerate zip min max sum abs sorted reversed int str bool list tuple dict set frozenset isinstance "
