@@ -1,7 +1,8 @@
 """The calls: each answers a list of whole numbers, [-1] where it refuses."""
 
 from damagesums.states import (
-    can_have_length, empty_state, is_kind, is_state, state_behind, state_of_both, sum_of_state, zeros_behind,
+    can_have_length, empty_state, is_kind, is_state, state_behind, state_changed, state_of_both, sum_bytes, sum_length,
+    sum_of_state, zeros_behind,
 )
 
 LONGEST_TEXT = 65536
@@ -50,3 +51,35 @@ def zeros(k, s, n):
     if not is_kind(k) or not is_state(k, s) or n > HIGHEST_N:
         return [-1]
     return [0, zeros_behind(k, s, n)]
+
+
+def changed(k, s, n, old, new):
+    """0, then the state of s's text with new in the place of old, which has n bytes behind it."""
+    if not is_kind(k) or not is_state(k, s) or n > HIGHEST_N:
+        return [-1]
+    if len(old) > LONGEST_TEXT or len(new) != len(old):
+        return [-1]
+    return [0, state_changed(k, s, n, old, new)]
+
+
+def put(k, at, text):
+    """How many bytes, then the text with its sum's bytes at place at."""
+    if not has_room(k, at, text):
+        return [-1]
+    return [len(text)] + text[:at] + sum_bytes(k, at, text) + text[at + sum_length(k):]
+
+
+def right(k, at, text):
+    """1 if the text is as put would make it, else 0."""
+    if not has_room(k, at, text):
+        return [-1]
+    if text[at:at + sum_length(k)] == sum_bytes(k, at, text):
+        return [1]
+    return [0]
+
+
+def has_room(k, at, text):
+    """Whether k is a kind and the text, not too long, has its sum's bytes at place at."""
+    if not is_kind(k) or len(text) > LONGEST_TEXT:
+        return False
+    return 0 <= at and at + sum_length(k) <= len(text)

@@ -4,6 +4,9 @@ ONES = 2
 ADLER = 3
 HIGHEST_KIND = 3
 
+# By kind: how many bytes a sum has.
+SUM_LENGTH = (4, 8, 2, 4)
+
 # By kind, for the kinds by bits alone: F, 2^w - 1 and 2^(w - 1).
 FEEDBACK = (0x82F63B78, 0xC96C5795D7870F42)
 ALL_BITS = (0xFFFFFFFF, 0xFFFFFFFFFFFFFFFF)
@@ -48,6 +51,22 @@ def sum_of_state(k, s):
     return s
 
 
+def sum_length(k):
+    return SUM_LENGTH[k]
+
+
+def sum_bytes(k, at, text):
+    """The bytes, the highest first, of the sum of the text with bytes of 0 at place at."""
+    length = sum_length(k)
+    blank = text[:at] + [0] * length + text[at + length:]
+    number = sum_of_state(k, state_behind(k, empty_state(k), blank))
+    lowest_first = []
+    for place in range(length):
+        lowest_first.append(number % 256)
+        number = number // 256
+    return list(reversed(lowest_first))
+
+
 def can_have_length(k, s, n):
     """Whether s leaves open that its text has n bytes, by odd or even."""
     return k != ONES or s // HALF == n % 2
@@ -71,12 +90,31 @@ def zeros_behind(k, s, n):
     return zero_bytes_on(k, s ^ ALL_BITS[k], n) ^ ALL_BITS[k]
 
 
+def state_changed(k, s, n, old, new):
+    """The state of s's text with new in the place of old, which has n bytes behind it."""
+    if k == ONES:
+        return ones_changed(s, n, old, new)
+    if k == ADLER:
+        return adler_changed(s, n, old, new)
+    return bits_changed(k, s, n, old, new)
+
+
 def bits_behind(k, s, text):
     # A state has all bits turned once more than the x that bytes go by.
-    x = s ^ ALL_BITS[k]
+    return bytes_by(k, s ^ ALL_BITS[k], text) ^ ALL_BITS[k]
+
+
+def bits_changed(k, s, n, old, new):
+    # Exclusive-or of two texts goes by as exclusive-or of both: what is ahead of old and behind it falls out.
+    turned = [was ^ now for was, now in zip(old, new)]
+    return s ^ zero_bytes_on(k, bytes_by(k, 0, turned), n)
+
+
+def bytes_by(k, x, text):
+    """What the text's bytes, going by in order, make of x."""
     for c in text:
         x = eight_bits_on(x ^ c, FEEDBACK[k])
-    return x ^ ALL_BITS[k]
+    return x
 
 
 def eight_bits_on(x, feedback):
@@ -116,16 +154,21 @@ def product(k, x, y):
 
 
 def ones_behind(s, text):
-    total = s % HALF
-    # Behind an odd text the first byte is the lower one of a number begun there.
     odd = s // HALF
-    for c in text:
+    return ones_number(s % HALF + ones_total(odd, text)) + HALF * ((odd + len(text)) % 2)
+
+
+def ones_total(odd, values):
+    """The total of values that stand byte by byte behind a text, an odd one if odd is 1."""
+    total = 0
+    # Behind an odd text the first byte is the lower one of a number begun there.
+    for value in values:
         if odd == 1:
-            total = total + c
+            total = total + value
         else:
-            total = total + 256 * c
+            total = total + 256 * value
         odd = 1 - odd
-    return ones_number(total) + HALF * odd
+    return total
 
 
 def ones_number(total):
@@ -141,6 +184,14 @@ def ones_of_both(a, b, n):
     if a // HALF == 1:
         weight = 256
     return ones_number(a % HALF + weight * (b % HALF)) + HALF * ((a // HALF + n) % 2)
+
+
+def ones_changed(s, n, old, new):
+    odd = s // HALF
+    more = [now - was for was, now in zip(old, new)]
+    total = s % HALF + ones_total((odd + n + len(old)) % 2, more)
+    # Unlike ones_number: without the text none can tell a total of 0 from other multiples, so 65535 stands for all.
+    return (total - 1) % ONES_MODULUS + 1 + HALF * odd
 
 
 def adler_behind(s, text):
@@ -164,3 +215,15 @@ def adler_zeros_behind(s, n):
     a = s % HALF
     b = (s // HALF + n * a) % ADLER_MODULUS
     return HALF * b + a
+
+
+def adler_changed(s, n, old, new):
+    a = s % HALF
+    b = s // HALF
+    # A byte is in every value that a had from that byte on.
+    times = n + len(old)
+    for was, now in zip(old, new):
+        a = a + now - was
+        b = b + times * (now - was)
+        times = times - 1
+    return HALF * (b % ADLER_MODULUS) + a % ADLER_MODULUS

@@ -1,12 +1,13 @@
 """States reckoned by other ways than the package's: long division, one big number, zlib."""
 
-import contextlib
 import signal
+import unittest
 import zlib
 
 KINDS = (0, 1, 2, 3)
 NO_KINDS = (-2147483648, -2, -1, 4, 5, 2147483647)
 EMPTY = (0, 0, 0, 1)
+SUM_LENGTH = (4, 8, 2, 4)
 WIDTH = (32, 64)
 # The divisors as polynomials, highest power first, its leading 1 included.
 DIVISOR = (0x11EDC6F41, 0x142F0E1EBA9EA3693)
@@ -81,6 +82,22 @@ def state(k, s, text):
     return bits_state(k, s, text)
 
 
+def text_sum(k, text):
+    s = state(k, EMPTY[k], text)
+    if k == 2:
+        return 65535 - s % 65536
+    return s
+
+
+def text_put(k, at, text):
+    """The text with its sum's bytes at place at."""
+    length = SUM_LENGTH[k]
+    whole = list(text)
+    whole[at:at + length] = [0] * length
+    whole[at:at + length] = text_sum(k, whole).to_bytes(length, "big")
+    return whole
+
+
 def carryless(x, y):
     total = 0
     while y:
@@ -137,16 +154,15 @@ class Sealed(list):
     __setitem__ = __delitem__ = __iadd__ = __imul__ = change
 
 
-@contextlib.contextmanager
-def in_time(seconds=20):
-    """An answer that would take a step for each byte of a far place must fail, not hang."""
-    def too_late(number, frame):
-        raise AssertionError("no answer within {} seconds".format(seconds))
+class TimedTest(unittest.TestCase):
+    """An answer that would take a step for each of 2^40 bytes must fail, not hang."""
 
-    before = signal.signal(signal.SIGALRM, too_late)
-    signal.alarm(seconds)
-    try:
-        yield
-    finally:
-        signal.alarm(0)
-        signal.signal(signal.SIGALRM, before)
+    def setUp(self):
+        before = signal.signal(signal.SIGALRM, self.too_late)
+        self.addCleanup(signal.signal, signal.SIGALRM, before)
+        signal.alarm(60)
+        self.addCleanup(signal.alarm, 0)
+
+    def too_late(self, number, frame):
+        # An ordinary failure would end one subtest alone, and the next one would hang.
+        raise KeyboardInterrupt("no answer in reasonable time")

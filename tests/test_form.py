@@ -17,6 +17,9 @@ INTERFACE = {
     "of": ["k", "text"],
     "joined": ["k", "a", "b", "n"],
     "zeros": ["k", "s", "n"],
+    "changed": ["k", "s", "n", "old", "new"],
+    "put": ["k", "at", "text"],
+    "right": ["k", "at", "text"],
 }
 OWN_NAMES = set(
     "len range enumerate zip min max sum abs sorted reversed int str bool list tuple dict set frozenset isinstance "

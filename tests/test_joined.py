@@ -2,12 +2,12 @@ import unittest
 
 from damagesums.check import add, begin, joined, zeros
 from tests.reference import (
-    EMPTY, FAR_LENGTHS, FARTHEST, KINDS, LENGTHS, LONG, NO_KINDS, NO_STATES, STATES, TEXTS, TOO_FAR, both, fits,
-    in_time, state,
+    EMPTY, FAR_LENGTHS, FARTHEST, KINDS, LENGTHS, LONG, NO_KINDS, NO_STATES, STATES, TEXTS, TOO_FAR, TimedTest,
+    both, fits, state,
 )
 
 
-class KnownValuesTest(unittest.TestCase):
+class KnownValuesTest(TimedTest):
     def test_crc_32c(self):
         a = add(0, 0, list(b"12345"))[1]
         b = add(0, 0, list(b"6789"))[1]
@@ -54,7 +54,7 @@ class KnownValuesTest(unittest.TestCase):
         self.assertEqual(joined(3, top, top, 0), [0, 65536 * 65519 + 65518])
 
 
-class JoinedTest(unittest.TestCase):
+class JoinedTest(TimedTest):
     def test_texts_one_behind_the_other(self):
         for k in KINDS:
             for first in TEXTS:
@@ -109,37 +109,34 @@ class JoinedTest(unittest.TestCase):
         self.assertEqual(joined(1, 2 ** 63, 1, 0), [0, 2 ** 63 + 1])
 
 
-class FarJoinedTest(unittest.TestCase):
+class FarJoinedTest(TimedTest):
     def test_far_lengths(self):
-        with in_time():
-            for k in KINDS:
-                for a in STATES[k]:
-                    for b in STATES[k]:
-                        for n in FAR_LENGTHS:
-                            if fits(k, b, n):
-                                with self.subTest(k=k, a=a, b=b, n=n):
-                                    self.assertEqual(joined(k, a, b, n), [0, both(k, a, b, n)])
+        for k in KINDS:
+            for a in STATES[k]:
+                for b in STATES[k]:
+                    for n in FAR_LENGTHS:
+                        if fits(k, b, n):
+                            with self.subTest(k=k, a=a, b=b, n=n):
+                                self.assertEqual(joined(k, a, b, n), [0, both(k, a, b, n)])
 
     def test_far_bytes_of_0(self):
-        with in_time():
-            for k in KINDS:
-                b = zeros(k, begin(k)[1], FARTHEST)[1]
-                for a in STATES[k]:
-                    with self.subTest(k=k, a=a):
-                        self.assertEqual(joined(k, a, b, FARTHEST), zeros(k, a, FARTHEST))
+        for k in KINDS:
+            b = zeros(k, begin(k)[1], FARTHEST)[1]
+            for a in STATES[k]:
+                with self.subTest(k=k, a=a):
+                    self.assertEqual(joined(k, a, b, FARTHEST), zeros(k, a, FARTHEST))
 
     def test_three_texts_in_either_order(self):
-        with in_time():
-            for k in KINDS:
-                a, b, c = [state(k, EMPTY[k], text) for text in ([9, 8, 7], [6] * 4, [5] * 2)]
-                n = FARTHEST - 4
-                left = joined(k, joined(k, a, b, 4)[1], c, n)
-                right = joined(k, a, joined(k, b, c, n)[1], FARTHEST)
-                with self.subTest(k=k):
-                    self.assertEqual(left, right)
+        for k in KINDS:
+            a, b, c = [state(k, EMPTY[k], text) for text in ([9, 8, 7], [6] * 4, [5] * 2)]
+            n = FARTHEST - 4
+            left = joined(k, joined(k, a, b, 4)[1], c, n)
+            right = joined(k, a, joined(k, b, c, n)[1], FARTHEST)
+            with self.subTest(k=k):
+                self.assertEqual(left, right)
 
 
-class JoinedRefusesTest(unittest.TestCase):
+class JoinedRefusesTest(TimedTest):
     def test_no_kind(self):
         for k in NO_KINDS:
             for s in (0, 1, 131072, 2 ** 64 - 1):
@@ -182,7 +179,7 @@ class JoinedRefusesTest(unittest.TestCase):
                         self.assertEqual(joined(k, 1, b, n)[0], 0)
 
 
-class JoinedKeepsNothingTest(unittest.TestCase):
+class JoinedKeepsNothingTest(TimedTest):
     def test_same_answer_again(self):
         for k in KINDS:
             for a in STATES[k]:

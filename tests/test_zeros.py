@@ -2,12 +2,12 @@ import unittest
 
 from damagesums.check import add, begin, joined, zeros
 from tests.reference import (
-    EMPTY, FAR_LENGTHS, FARTHEST, KINDS, LENGTHS, NO_KINDS, NO_STATES, STATES, TEXTS, TOO_FAR, far_zeros, in_time,
-    state,
+    EMPTY, FAR_LENGTHS, FARTHEST, KINDS, LENGTHS, NO_KINDS, NO_STATES, STATES, TEXTS, TOO_FAR, TimedTest,
+    far_zeros, state,
 )
 
 
-class KnownValuesTest(unittest.TestCase):
+class KnownValuesTest(TimedTest):
     def test_crc_32c(self):
         self.assertEqual(zeros(0, 0, 32), [0, 0x8A9136AA])
 
@@ -35,7 +35,7 @@ class KnownValuesTest(unittest.TestCase):
         self.assertEqual(zeros(3, 1, FARTHEST), [0, 65536 * (FARTHEST % 65521) + 1])
 
 
-class ZerosTest(unittest.TestCase):
+class ZerosTest(TimedTest):
     def test_as_add_of_bytes_of_0(self):
         for k in KINDS:
             for s in STATES[k]:
@@ -66,35 +66,32 @@ class ZerosTest(unittest.TestCase):
                         self.assertEqual(zeros(k, s, n), [0, state(k, EMPTY[k], text + [0] * n)])
 
 
-class FarZerosTest(unittest.TestCase):
+class FarZerosTest(TimedTest):
     def test_far_lengths(self):
-        with in_time():
-            for k in KINDS:
-                for s in STATES[k]:
-                    for n in LENGTHS + FAR_LENGTHS:
-                        with self.subTest(k=k, s=s, n=n):
-                            self.assertEqual(zeros(k, s, n), [0, far_zeros(k, s, n)])
+        for k in KINDS:
+            for s in STATES[k]:
+                for n in LENGTHS + FAR_LENGTHS:
+                    with self.subTest(k=k, s=s, n=n):
+                        self.assertEqual(zeros(k, s, n), [0, far_zeros(k, s, n)])
 
     def test_farthest_in_two_parts(self):
-        with in_time():
-            for k in KINDS:
-                for s in STATES[k]:
-                    for last in (1, 2, 1001):
-                        with self.subTest(k=k, s=s, last=last):
-                            near = zeros(k, s, FARTHEST - last)[1]
-                            self.assertEqual(zeros(k, s, FARTHEST), add(k, near, [0] * last))
+        for k in KINDS:
+            for s in STATES[k]:
+                for last in (1, 2, 1001):
+                    with self.subTest(k=k, s=s, last=last):
+                        near = zeros(k, s, FARTHEST - last)[1]
+                        self.assertEqual(zeros(k, s, FARTHEST), add(k, near, [0] * last))
 
     def test_as_joined(self):
-        with in_time():
-            for k in KINDS:
-                for s in STATES[k]:
-                    for n in LENGTHS + FAR_LENGTHS:
-                        with self.subTest(k=k, s=s, n=n):
-                            empty = zeros(k, begin(k)[1], n)[1]
-                            self.assertEqual(zeros(k, s, n), joined(k, s, empty, n))
+        for k in KINDS:
+            for s in STATES[k]:
+                for n in LENGTHS + FAR_LENGTHS:
+                    with self.subTest(k=k, s=s, n=n):
+                        empty = zeros(k, begin(k)[1], n)[1]
+                        self.assertEqual(zeros(k, s, n), joined(k, s, empty, n))
 
 
-class ZerosRefusesTest(unittest.TestCase):
+class ZerosRefusesTest(TimedTest):
     def test_no_kind(self):
         for k in NO_KINDS:
             for s in (0, 1, 131072, 2 ** 64 - 1):
@@ -117,7 +114,7 @@ class ZerosRefusesTest(unittest.TestCase):
                         self.assertEqual(zeros(k, s, n), [-1])
 
 
-class ZerosKeepsNothingTest(unittest.TestCase):
+class ZerosKeepsNothingTest(TimedTest):
     def test_same_answer_again(self):
         for k in KINDS:
             for s in STATES[k]:
