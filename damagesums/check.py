@@ -1,11 +1,12 @@
 """The calls: each answers a list of whole numbers, [-1] where it refuses."""
 
 from damagesums.states import (
-    can_have_length, empty_state, is_kind, is_state, state_behind, state_changed, state_of_both, sum_bytes, sum_length,
-    sum_of_state, zeros_behind,
+    can_have_length, empty_state, filling_bytes, is_by_bits, is_kind, is_state, state_behind, state_changed,
+    state_of_all, state_of_both, state_of_text, sum_bytes, sum_length, sum_of_state, zeros_behind,
 )
 
 LONGEST_TEXT = 65536
+MOST_PIECES = 64
 HIGHEST_N = 1099511627776
 
 
@@ -34,7 +35,7 @@ def of(k, text):
     """0, then the sum of the text."""
     if not is_kind(k) or len(text) > LONGEST_TEXT:
         return [-1]
-    return [0, sum_of_state(k, state_behind(k, empty_state(k), text))]
+    return [0, sum_of_state(k, state_of_text(k, text))]
 
 
 def joined(k, a, b, n):
@@ -76,6 +77,33 @@ def right(k, at, text):
     if text[at:at + sum_length(k)] == sum_bytes(k, at, text):
         return [1]
     return [0]
+
+
+def filled(k, s, want):
+    """4 or 8, then so many bytes which make the state want behind s's text."""
+    if not is_by_bits(k) or not is_state(k, s) or not is_state(k, want):
+        return [-1]
+    return [sum_length(k)] + filling_bytes(k, s, want)
+
+
+def pieces(k, texts):
+    """How many texts, then the state of each, then that of all of them, one behind the other."""
+    if not is_kind(k) or len(texts) > MOST_PIECES:
+        return [-1]
+    if sum([len(text) for text in texts]) > LONGEST_TEXT:
+        return [-1]
+    each = [state_of_text(k, text) for text in texts]
+    return [len(texts)] + each + [state_of_all(k, each, texts)]
+
+
+def copied(k, s, start, n, text):
+    """n, then the state of s's text with the text's n bytes from place start on behind it, then these bytes."""
+    if not is_kind(k) or not is_state(k, s) or len(text) > LONGEST_TEXT:
+        return [-1]
+    if start < 0 or n < 0 or start + n > len(text):
+        return [-1]
+    part = text[start:start + n]
+    return [n, state_behind(k, s, part)] + part
 
 
 def has_room(k, at, text):

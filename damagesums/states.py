@@ -22,6 +22,10 @@ def is_kind(k):
     return 0 <= k <= HIGHEST_KIND
 
 
+def is_by_bits(k):
+    return 0 <= k < ONES
+
+
 def is_state(k, s):
     if k == ONES:
         return 0 <= s <= ONES_HIGHEST_STATE
@@ -34,6 +38,10 @@ def empty_state(k):
     if k == ADLER:
         return 1
     return 0
+
+
+def state_of_text(k, text):
+    return state_behind(k, empty_state(k), text)
 
 
 def state_behind(k, s, text):
@@ -59,12 +67,17 @@ def sum_bytes(k, at, text):
     """The bytes, the highest first, of the sum of the text with bytes of 0 at place at."""
     length = sum_length(k)
     blank = text[:at] + [0] * length + text[at + length:]
-    number = sum_of_state(k, state_behind(k, empty_state(k), blank))
-    lowest_first = []
+    number = sum_of_state(k, state_of_text(k, blank))
+    return list(reversed(lowest_first(number, length)))
+
+
+def lowest_first(number, length):
+    """So many bytes of the number, the lowest first."""
+    parts = []
     for place in range(length):
-        lowest_first.append(number % 256)
+        parts.append(number % 256)
         number = number // 256
-    return list(reversed(lowest_first))
+    return parts
 
 
 def can_have_length(k, s, n):
@@ -79,6 +92,14 @@ def state_of_both(k, a, b, n):
     if k == ADLER:
         return adler_of_both(a, b, n)
     return zero_bytes_on(k, a, n) ^ b
+
+
+def state_of_all(k, each, texts):
+    """The state of all texts, one behind the other, from the state of each."""
+    whole = empty_state(k)
+    for s, text in zip(each, texts):
+        whole = state_of_both(k, whole, s, len(text))
+    return whole
 
 
 def zeros_behind(k, s, n):
@@ -110,6 +131,16 @@ def bits_changed(k, s, n, old, new):
     return s ^ zero_bytes_on(k, bytes_by(k, 0, turned), n)
 
 
+def filling_bytes(k, s, want):
+    """The bytes, as many as a sum has, which make the state want behind s's text."""
+    length = sum_length(k)
+    x = want ^ ALL_BITS[k]
+    for step in range(8 * length):
+        x = one_bit_back(k, x)
+    # What is put in higher up has come down unchanged when its byte goes by: all bytes may be put in at once, first.
+    return lowest_first(x ^ s ^ ALL_BITS[k], length)
+
+
 def bytes_by(k, x, text):
     """What the text's bytes, going by in order, make of x."""
     for c in text:
@@ -127,6 +158,13 @@ def one_bit_on(x, feedback):
     if x % 2 == 1:
         return (x // 2) ^ feedback
     return x // 2
+
+
+def one_bit_back(k, x):
+    # F has the top bit and a half has not: the top bit tells whether F was put in, and so what the lowest bit was.
+    if x >= TOP_BIT[k]:
+        return 2 * (x ^ FEEDBACK[k]) + 1
+    return 2 * x
 
 
 def zero_bytes_on(k, x, n):

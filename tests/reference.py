@@ -6,6 +6,8 @@ import zlib
 
 KINDS = (0, 1, 2, 3)
 NO_KINDS = (-2147483648, -2, -1, 4, 5, 2147483647)
+BITS_KINDS = (0, 1)
+NO_BITS_KINDS = NO_KINDS + (2, 3)
 EMPTY = (0, 0, 0, 1)
 SUM_LENGTH = (4, 8, 2, 4)
 WIDTH = (32, 64)

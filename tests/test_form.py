@@ -20,6 +20,9 @@ INTERFACE = {
     "changed": ["k", "s", "n", "old", "new"],
     "put": ["k", "at", "text"],
     "right": ["k", "at", "text"],
+    "filled": ["k", "s", "want"],
+    "pieces": ["k", "texts"],
+    "copied": ["k", "s", "start", "n", "text"],
 }
 OWN_NAMES = set(
     "len range enumerate zip min max sum abs sorted reversed int str bool list tuple dict set frozenset isinstance "
