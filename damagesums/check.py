@@ -1,12 +1,14 @@
-"""The calls: each answers a list of whole numbers, [-1] where it refuses."""
+"""The calls: each answers a list of whole numbers, [-1] where it refuses; found alone may answer [-2], too."""
 
 from damagesums.states import (
     can_have_length, empty_state, filling_bytes, is_by_bits, is_kind, is_state, state_behind, state_changed,
-    state_of_all, state_of_both, state_of_text, sum_bytes, sum_length, sum_of_state, zeros_behind,
+    state_of_all, state_of_both, state_of_text, sum_bytes, sum_length, sum_of_state, table_number, turned_bit,
+    zeros_behind,
 )
 
 LONGEST_TEXT = 65536
 MOST_PIECES = 64
+HIGHEST_BYTE = 255
 HIGHEST_N = 1099511627776
 
 
@@ -104,6 +106,23 @@ def copied(k, s, start, n, text):
         return [-1]
     part = text[start:start + n]
     return [n, state_behind(k, s, part)] + part
+
+
+def found(k, given, should, n):
+    """0, then the place of the bit of n bytes that must turn so that the sum given is the sum should."""
+    if not is_by_bits(k) or not is_state(k, given) or not is_state(k, should) or n > LONGEST_TEXT:
+        return [-1]
+    place = turned_bit(k, given ^ should, n)
+    if place is None:
+        return [-2]
+    return [0, place]
+
+
+def table(k, i):
+    """0, then what eight bits on make of i."""
+    if not is_by_bits(k) or i < 0 or i > HIGHEST_BYTE:
+        return [-1]
+    return [0, table_number(k, i)]
 
 
 def has_room(k, at, text):

@@ -141,6 +141,21 @@ def filling_bytes(k, s, want):
     return lowest_first(x ^ s ^ ALL_BITS[k], length)
 
 
+def turned_bit(k, difference, n):
+    """The place of the bit of n bytes that makes this difference of sums when it turns; None if there is none."""
+    # The last bit of all puts F in, and each one ahead of it goes one bit on more: the nearest to the end comes first.
+    x = FEEDBACK[k]
+    for ahead in range(8 * n):
+        if x == difference:
+            return 8 * n - 1 - ahead
+        x = one_bit_on(x, FEEDBACK[k])
+    return None
+
+
+def table_number(k, i):
+    return eight_bits_on(i, FEEDBACK[k])
+
+
 def bytes_by(k, x, text):
     """What the text's bytes, going by in order, make of x."""
     for c in text:

@@ -132,6 +132,16 @@ def both(k, a, b, n):
     return 65536 * upper + lower
 
 
+def bit_places(k, n):
+    """By the difference of sums that one turned bit of n bytes makes, from the highest power down: its place."""
+    places = {}
+    rest = divided(1 << WIDTH[k], k)
+    for place in range(8 * n - 1, -1, -1):
+        places.setdefault(rest, place)
+        rest = divided(rest << 1, k)
+    return places
+
+
 def far_zeros(k, s, n):
     if k < 2:
         top = 2 ** WIDTH[k] - 1

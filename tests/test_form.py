@@ -23,6 +23,8 @@ INTERFACE = {
     "filled": ["k", "s", "want"],
     "pieces": ["k", "texts"],
     "copied": ["k", "s", "start", "n", "text"],
+    "found": ["k", "given", "should", "n"],
+    "table": ["k", "i"],
 }
 OWN_NAMES = set(
     "len range enumerate zip min max sum abs sorted reversed int str bool list tuple dict set frozenset isinstance "
@@ -36,13 +38,28 @@ WORDS_LEFT_OUT = re.compile(
 NODES_LEFT_OUT = (
     ast.Import, ast.With, ast.Delete, ast.Global, ast.Nonlocal, ast.Assert, ast.Yield, ast.YieldFrom, ast.Await,
     ast.AsyncFunctionDef, ast.AsyncFor, ast.AsyncWith, ast.SetComp, ast.DictComp, ast.GeneratorExp, ast.NamedExpr,
-    ast.Starred, ast.Div, ast.Match, ast.Is, ast.IsNot,
+    ast.Starred, ast.Div, ast.Match,
 )
+WALKED_AT_ONCE = ("zip", "enumerate", "reversed", "range")
+WALKERS = ("list", "tuple", "dict", "sorted", "sum", "any", "all", "enumerate", "zip", "min", "max")
 
 
 def sources():
     for path in sorted(PACKAGE.rglob("*.py")):
         yield path, path.read_text(encoding="utf-8")
+
+
+def called(node):
+    return getattr(getattr(node, "func", None), "id", None)
+
+
+def walked(tree):
+    """What the source walks on the spot."""
+    for node in ast.walk(tree):
+        if isinstance(node, (ast.For, ast.comprehension)):
+            yield node.iter
+        if called(node) in WALKERS and node.args:
+            yield node.args[0]
 
 
 class FormTest(unittest.TestCase):
@@ -89,6 +106,24 @@ class FormTest(unittest.TestCase):
                         self.assertNotIn(node.name, OWN_NAMES | STRANGE_NAMES)
                     if isinstance(node, ast.Constant):
                         self.assertIn(type(node.value), (int, str, bool, type(None)))
+
+    def test_is_beside_none_true_and_false_alone(self):
+        for path, source in sources():
+            for node in ast.walk(ast.parse(source)):
+                if isinstance(node, ast.Compare) and any(isinstance(op, (ast.Is, ast.IsNot)) for op in node.ops):
+                    with self.subTest(file=path.name, line=node.lineno):
+                        self.assertEqual(len(node.ops), 1)
+                        self.assertIsInstance(node.comparators[0], ast.Constant)
+                        self.assertIn(repr(node.comparators[0].value), ("None", "True", "False"))
+
+    def test_walked_at_once(self):
+        for path, source in sources():
+            tree = ast.parse(source)
+            on_the_spot = list(walked(tree))
+            for node in ast.walk(tree):
+                if called(node) in WALKED_AT_ONCE:
+                    with self.subTest(file=path.name, line=node.lineno):
+                        self.assertIn(node, on_the_spot)
 
     def test_nothing_but_values_at_the_top(self):
         plain = (ast.Expr, ast.ImportFrom, ast.FunctionDef, ast.ClassDef, ast.Assign)
